@@ -10,25 +10,12 @@ import (
 
 	"erratum/api"
 	"erratum/field"
+	"erratum/sketch"
 	"erratum/state"
 )
 
-// fl makes a field's writing short, fs that of a list of fields ("a1 b-2": a name of one byte, and its value), and sp that of a span.
-func fl(name string, value int) api.Field { return api.Field{Name: name, Value: value} }
-
-func fs(written string) []api.Field {
-	var l []api.Field
-	for _, w := range strings.Fields(written) {
-		var value int
-		if _, err := fmt.Sscan(w[1:], &value); err != nil {
-			panic(err)
-		}
-		l = append(l, fl(w[:1], value))
-	}
-	return l
-}
-
-func sp(from, to int) api.Span { return api.Span{From: from, To: to} }
+// Short names of what these tests are written with.
+var fl, fs, sp = sketch.Field, sketch.Fields, sketch.Span
 
 // vs makes the writing of a version short that is valid at all times; gone that of one that is gone, with the same fields.
 func vs(stamp int, written string) api.Version {

@@ -59,20 +59,6 @@ func TestClip(t *testing.T) {
 	}
 }
 
-// none are lists that are no timelines, each for another cause; all have something from 0 to 10.
-var none = [][]api.Piece{
-	pieces(pc(0, 9, "a1"), pc(3, 3, "a2")),
-	pieces(pc(3, 3, "a1"), pc(4, 9, "a1")),
-	pieces(pc(0, 9, "a1"), pc(12, 1<<40+1, "a2")),
-	pieces(pc(-1<<40-1, 9, "a1")),
-	pieces(pc(0, 4, "a1"), pc(3, 9, "a2")),
-	pieces(pc(5, 9, "a1"), pc(0, 4, "a2")),
-	pieces(pc(0, 4, "a1"), pc(4, 9, "a1")),
-	pieces(pc(0, 4, ""), pc(4, 9, "")),
-	pieces(pc(0, 4, "a1"), pc(0, 4, "a1")),
-	pieces(pc(0, 2, "a1"), pc(2, 4, "a2"), pc(20, 30, "a2"), pc(30, 40, "a2")),
-}
-
 func TestClipOfNone(t *testing.T) {
 	for _, l := range none {
 		for _, a := range append([]api.Span{always, sp(0, 9), sp(0, 1), sp(-5, -3)}, strange...) {
@@ -82,9 +68,6 @@ func TestClipOfNone(t *testing.T) {
 		}
 	}
 }
-
-// around answers times that small timelines begin at, so that they reach both ends of time, and 0.
-func around(long int) []int { return []int{-1 << 40, -1<<40 + 1, -2, 1<<40 - long - 1, 1<<40 - long} }
 
 // cut answers the word of what is left of a timeline within a: the letters of all other times are those of nothing.
 func cut(a api.Span, from int, written string) string {
@@ -360,15 +343,7 @@ func TestClipped(t *testing.T) {
 	}
 }
 
-// copied and copiedVersions answer copies that share nothing with what they are of.
-func copied(l []api.Piece) []api.Piece {
-	told := slices.Clone(l)
-	for i := range told {
-		told[i].Fields = slices.Clone(told[i].Fields)
-	}
-	return told
-}
-
+// copiedVersions answers versions that share nothing with what they are of.
 func copiedVersions(l []api.Version) []api.Version {
 	told := slices.Clone(l)
 	for i := range told {

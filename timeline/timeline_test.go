@@ -9,25 +9,18 @@ import (
 	"testing"
 
 	"erratum/api"
+	"erratum/sketch"
 	"erratum/timeline"
 )
 
-// fl makes a field's writing short, fs that of a list of fields ("a1 b-2": a name of one byte, and its value), and sp that of a span.
-func fl(name string, value int) api.Field { return api.Field{Name: name, Value: value} }
-
-func fs(written string) []api.Field {
-	var l []api.Field
-	for _, w := range strings.Fields(written) {
-		var value int
-		if _, err := fmt.Sscan(w[1:], &value); err != nil {
-			panic(err)
-		}
-		l = append(l, fl(w[:1], value))
-	}
-	return l
-}
-
-func sp(from, to int) api.Span { return api.Span{From: from, To: to} }
+// Short names of what these tests are written with.
+var (
+	fl, fs, sp, pc, line, words     = sketch.Field, sketch.Fields, sketch.Span, sketch.Piece, sketch.Line, sketch.Words
+	right, has, slowRight, slowAt   = sketch.Right, sketch.Has, sketch.Timeline, sketch.At
+	same, samePiece, copied, around = sketch.Same, sketch.SamePiece, sketch.Copy, sketch.Around
+	strange, ends, none             = sketch.Strange(), sketch.Ends(), sketch.NoTimelines()
+	always                          = sp(-1<<40, 1<<40) // the span of all times
+)
 
 // vs makes the writing of a version short, and gone answers it as one that is gone.
 func vs(stamp, from, to int, written string) api.Version {
@@ -39,45 +32,10 @@ func gone(v api.Version) api.Version {
 	return v
 }
 
-// list and pieces make the writing of lists short, and pc that of a piece.
+// list and pieces make the writing of lists short.
 func list(l ...api.Version) []api.Version { return l }
 
 func pieces(l ...api.Piece) []api.Piece { return l }
-
-func pc(from, to int, written string) api.Piece {
-	return api.Piece{Span: sp(from, to), Fields: fs(written)}
-}
-
-// line makes the writing of a timeline short, a letter a time: "." for nothing, "-" for a state of no field, 1 for a state of a 1, and so on.
-func line(from int, written string) []api.Piece {
-	var l []api.Piece
-	for i, letter := range written {
-		switch {
-		case letter == '.':
-		case i > 0 && written[i-1] == byte(letter):
-			l[len(l)-1].Span.To++
-		case letter == '-':
-			l = append(l, pc(from+i, from+i+1, ""))
-		default:
-			l = append(l, pc(from+i, from+i+1, "a"+string(letter)))
-		}
-	}
-	return l
-}
-
-// words answers all words of so many of the letters.
-func words(letters string, long int) []string {
-	if long == 0 {
-		return []string{""}
-	}
-	var l []string
-	for _, ahead := range words(letters, long-1) {
-		for _, letter := range letters {
-			l = append(l, ahead+string(letter))
-		}
-	}
-	return l
-}
 
 // spansIn answers all spans, right and not, that begin and end from one time to another one.
 func spansIn(least, most int) []api.Span {
@@ -88,49 +46,6 @@ func spansIn(least, most int) []api.Span {
 		}
 	}
 	return l
-}
-
-// The span of all times, spans that are not right, and times at and beyond the ends of all that may be.
-var (
-	always  = sp(-1<<40, 1<<40)
-	strange = []api.Span{{}, sp(3, 3), sp(9, 0), sp(-1<<40-1, 5), sp(0, 1<<40+1), sp(1<<40, 1<<40), sp(math.MinInt, math.MaxInt), sp(math.MaxInt, math.MinInt), sp(0, math.MaxInt), sp(math.MinInt, 0)}
-	ends    = []int{math.MinInt, -1 << 62, -1<<40 - 1, -1 << 40, -1<<40 + 1, -1, 0, 1, 2, 3, 1<<40 - 1, 1 << 40, 1<<40 + 1, 1 << 62, math.MaxInt}
-)
-
-// The words of chapters 1 and 7 that this one leans on.
-func right(a api.Span) bool { return a.From >= -1<<40 && a.To <= 1<<40 && a.From < a.To }
-
-func has(a api.Span, t int) bool { return right(a) && a.From <= t && t < a.To }
-
-func samePiece(p, q api.Piece) bool { return p.Span == q.Span && slices.Equal(p.Fields, q.Fields) }
-
-func same(a, b []api.Piece) bool { return slices.EqualFunc(a, b, samePiece) }
-
-// slowRight tells by the words of the chapter whether a list is a timeline.
-func slowRight(l []api.Piece) bool {
-	for i, p := range l {
-		if !right(p.Span) {
-			return false
-		}
-		if i == 0 {
-			continue
-		}
-		q := l[i-1]
-		if q.Span.To > p.Span.From || q.Span.To == p.Span.From && slices.Equal(q.Fields, p.Fields) {
-			return false
-		}
-	}
-	return true
-}
-
-// slowAt answers the fields of the first piece that has the time.
-func slowAt(l []api.Piece, t int) ([]api.Field, bool) {
-	for _, p := range l {
-		if has(p.Span, t) {
-			return p.Fields, true
-		}
-	}
-	return nil, false
 }
 
 // slowMade answers what versions make of a time, by the words of chapters 8 and 11: of each name what the one that counts says last whose stamp is the greatest.

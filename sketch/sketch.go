@@ -1,0 +1,162 @@
+// Package sketch is for tests alone: it makes the writing of spans, fields and timelines short,
+// and tells what they are slowly, by the plain words of chapters 1 and 11, so that what is quicker can be held against it.
+package sketch
+
+import (
+	"slices"
+	"strconv"
+	"strings"
+
+	"erratum/api"
+)
+
+// Span answers the span of both ends, right or not.
+func Span(from, to int) api.Span { return api.Span{From: from, To: to} }
+
+// Field answers the field of a name and a value, right or not.
+func Field(name string, value int) api.Field { return api.Field{Name: name, Value: value} }
+
+// Fields reads a list of fields: "a1 b-2" are a name of one byte and its value each.
+func Fields(written string) []api.Field {
+	var l []api.Field
+	for _, word := range strings.Fields(written) {
+		value, err := strconv.Atoi(word[1:])
+		if err != nil {
+			// A name that no test can mean, so that a slip of the pen does not go unseen.
+			l = append(l, Field("not a field: "+word, 0))
+			continue
+		}
+		l = append(l, Field(word[:1], value))
+	}
+	return l
+}
+
+// Piece answers the piece over a span of the fields that are written.
+func Piece(from, to int, written string) api.Piece {
+	return api.Piece{Span: Span(from, to), Fields: Fields(written)}
+}
+
+// Written answers what is written for a letter of a line: "" for "-", "a1" for "1", and so on; "." is nothing, and stays so.
+func Written(letter byte) string {
+	switch letter {
+	case '.':
+		return "."
+	case '-':
+		return ""
+	}
+	return "a" + string(rune(letter))
+}
+
+// Line reads a timeline, a letter a time from one on.
+func Line(from int, word string) []api.Piece {
+	var l []api.Piece
+	for i := range len(word) {
+		switch {
+		case word[i] == '.':
+		case i > 0 && word[i-1] == word[i]:
+			l[len(l)-1].Span.To++
+		default:
+			l = append(l, Piece(from+i, from+i+1, Written(word[i])))
+		}
+	}
+	return l
+}
+
+// Words answers all words of so many of the letters.
+func Words(letters string, long int) []string {
+	if long == 0 {
+		return []string{""}
+	}
+	var l []string
+	for _, ahead := range Words(letters, long-1) {
+		for i := range len(letters) {
+			l = append(l, ahead+letters[i:i+1])
+		}
+	}
+	return l
+}
+
+// Around answers times at which lines of so many letters may begin, so that they reach both ends of time, and 0.
+func Around(long int) []int {
+	return []int{api.MinTime, api.MinTime + 1, -2, api.MaxTime - long - 1, api.MaxTime - long}
+}
+
+// Right: is the span right?
+func Right(a api.Span) bool { return a.From >= -1<<40 && a.To <= 1<<40 && a.From < a.To }
+
+// Has: does the span, if it is right, have the time?
+func Has(a api.Span, t int) bool { return Right(a) && a.From <= t && t < a.To }
+
+// Timeline: is the list a timeline?
+func Timeline(l []api.Piece) bool {
+	for i, p := range l {
+		if !Right(p.Span) {
+			return false
+		}
+		if i == 0 {
+			continue
+		}
+		q := l[i-1]
+		if q.Span.To > p.Span.From || q.Span.To == p.Span.From && slices.Equal(q.Fields, p.Fields) {
+			return false
+		}
+	}
+	return true
+}
+
+// At answers the fields of the first piece that has the time, and whether there is one.
+func At(l []api.Piece, t int) ([]api.Field, bool) {
+	for _, p := range l {
+		if Has(p.Span, t) {
+			return slices.Clone(p.Fields), true
+		}
+	}
+	return nil, false
+}
+
+// SamePiece: are both pieces the same?
+func SamePiece(p, q api.Piece) bool { return p.Span == q.Span && slices.Equal(p.Fields, q.Fields) }
+
+// Same: are both lists the same, piece by piece?
+func Same(a, b []api.Piece) bool { return slices.EqualFunc(a, b, SamePiece) }
+
+// Copy answers the same pieces, which share nothing with the list.
+func Copy(l []api.Piece) []api.Piece {
+	copied := slices.Clone(l)
+	for i := range copied {
+		copied[i].Fields = slices.Clone(copied[i].Fields)
+	}
+	return copied
+}
+
+// Strange answers spans that are not right.
+func Strange() []api.Span {
+	const least, most = -1 << 63, 1<<63 - 1
+	return []api.Span{
+		{}, Span(3, 3), Span(9, 0),
+		Span(-1<<40-1, 5), Span(0, 1<<40+1), Span(1<<40, 1<<40), Span(-1<<40, -1<<40),
+		Span(least, most), Span(most, least), Span(0, most), Span(least, 0),
+	}
+}
+
+// Ends answers times at and beyond the ends of all that may be, and some around 0.
+func Ends() []int {
+	const least, most = -1 << 63, 1<<63 - 1
+	return []int{least, -1 << 62, -1<<40 - 1, -1 << 40, -1<<40 + 1, -1, 0, 1, 2, 3, 1<<40 - 1, 1 << 40, 1<<40 + 1, 1 << 62, most}
+}
+
+// NoTimelines answers lists that are no timelines, each for another cause.
+func NoTimelines() [][]api.Piece {
+	return [][]api.Piece{
+		{Piece(0, 9, "a1"), Piece(13, 13, "a2")},
+		{Piece(3, 3, "a1"), Piece(4, 9, "a1")},
+		{Piece(0, 9, "a1"), Piece(12, 1<<40+1, "a2")},
+		{Piece(-1<<40-1, 9, "a1")},
+		{Piece(0, 4, "a1"), Piece(3, 9, "a2")},
+		{Piece(5, 9, "a1"), Piece(0, 4, "a2")},
+		{Piece(0, 4, "a1"), Piece(4, 9, "a1")},
+		{Piece(0, 4, ""), Piece(4, 9, "")},
+		{Piece(0, 4, "a1"), Piece(0, 4, "a1")},
+		{Piece(0, 2, "a1"), Piece(2, 4, "a2"), Piece(20, 30, "a2"), Piece(30, 40, "a2")},
+	}
+}
