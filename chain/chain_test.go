@@ -9,14 +9,14 @@ import (
 
 	"erratum/api"
 	"erratum/chain"
+	"erratum/sketch"
 	"erratum/version"
 )
 
-// fl makes a field's writing short, sp that of a span, vs that of a version that stands, gone that of one that is gone, and row that of a row.
-func fl(name string, value int) api.Field { return api.Field{Name: name, Value: value} }
+// Short names of what these tests are written with.
+var fl, sp, same, copied = sketch.Field, sketch.Span, sketch.SameVersion, sketch.CopyVersions
 
-func sp(from, to int) api.Span { return api.Span{From: from, To: to} }
-
+// vs makes the writing of a version short that stands, gone that of one that is gone, and row that of a row.
 func vs(id, stamp int, entity string, a api.Span, l ...api.Field) api.Version {
 	return api.Version{ID: id, Stamp: stamp, Entity: entity, Span: a, Fields: l}
 }
@@ -39,22 +39,7 @@ var (
 	nine = []api.Field{fl("a", 1), fl("b", 2), fl("c", 3), fl("d", 4), fl("e", 5), fl("f", 6), fl("g", 7), fl("h", 8), fl("i", 9)}
 )
 
-// same: are both versions the same? A list that is empty and one that is nil are.
-func same(a, b api.Version) bool {
-	return a.ID == b.ID && a.Stamp == b.Stamp && a.Entity == b.Entity && a.Span == b.Span && a.Gone == b.Gone && slices.Equal(a.Fields, b.Fields)
-}
-
 func sameRow(a, b api.Row) bool { return same(a.Version, b.Version) && a.Until == b.Until }
-
-// copied answers a copy of the versions that shares nothing with them.
-func copied(l []api.Version) []api.Version {
-	var copies []api.Version
-	for _, v := range l {
-		v.Fields = slices.Clone(v.Fields)
-		copies = append(copies, v)
-	}
-	return copies
-}
 
 // slowCheck tells by the words of the chapter what is wrong first with versions.
 func slowCheck(l []api.Version) api.Errno {

@@ -1,4 +1,4 @@
-// Package sketch is for tests alone: it makes the writing of spans, fields and timelines short,
+// Package sketch is for tests alone: it makes the writing of spans, fields and timelines short, holds them and versions against each other,
 // and tells what they are slowly, by the plain words of chapters 1 and 11, so that what is quicker can be held against it.
 package sketch
 
@@ -122,6 +122,23 @@ func Same(a, b []api.Piece) bool { return slices.EqualFunc(a, b, SamePiece) }
 
 // Copy answers the same pieces, which share nothing with the list.
 func Copy(l []api.Piece) []api.Piece {
+	copied := slices.Clone(l)
+	for i := range copied {
+		copied[i].Fields = slices.Clone(copied[i].Fields)
+	}
+	return copied
+}
+
+// SameVersion: are both versions the same? A list that is empty and one that is nil are.
+func SameVersion(a, b api.Version) bool {
+	return a.ID == b.ID && a.Stamp == b.Stamp && a.Entity == b.Entity && a.Span == b.Span && a.Gone == b.Gone && slices.Equal(a.Fields, b.Fields)
+}
+
+// SameVersions: are both lists the same, version by version?
+func SameVersions(a, b []api.Version) bool { return slices.EqualFunc(a, b, SameVersion) }
+
+// CopyVersions answers the same versions, which share nothing with the list.
+func CopyVersions(l []api.Version) []api.Version {
 	copied := slices.Clone(l)
 	for i := range copied {
 		copied[i].Fields = slices.Clone(copied[i].Fields)

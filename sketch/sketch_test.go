@@ -60,3 +60,35 @@ func TestTimeline(t *testing.T) {
 		}
 	}
 }
+
+func TestSameVersion(t *testing.T) {
+	v := api.Version{ID: 1, Stamp: 2, Entity: "e", Span: sketch.Span(0, 9), Fields: sketch.Fields("a1"), Gone: true}
+	others := []api.Version{v, v, v, v, v, v, v}
+	others[0].ID = 2
+	others[1].Stamp = 3
+	others[2].Entity = "f"
+	others[3].Span.To = 8
+	others[4].Fields = nil
+	others[5].Fields = sketch.Fields("a2")
+	others[6].Gone = false
+	for i, w := range others {
+		if sketch.SameVersion(v, w) || sketch.SameVersions([]api.Version{v, v}, []api.Version{v, w}) {
+			t.Errorf("the %d-th other version is told to be the same", i)
+		}
+	}
+	if !sketch.SameVersions([]api.Version{v}, []api.Version{v}) || sketch.SameVersions(nil, []api.Version{v}) {
+		t.Error("lists of the same version")
+	}
+}
+
+func TestCopyVersions(t *testing.T) {
+	l := []api.Version{{Stamp: 1, Fields: sketch.Fields("a1")}, {Stamp: 2}}
+	copied := sketch.CopyVersions(l)
+	if !sketch.SameVersions(copied, l) {
+		t.Errorf("copied to %v", copied)
+	}
+	copied[0].Fields[0].Value, copied[1].Stamp = 7, 7
+	if l[0].Fields[0].Value != 1 || l[1].Stamp != 2 {
+		t.Errorf("what is written to a copy is seen in %v", l)
+	}
+}

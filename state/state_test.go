@@ -15,7 +15,10 @@ import (
 )
 
 // Short names of what these tests are written with.
-var fl, fs, sp = sketch.Field, sketch.Fields, sketch.Span
+var (
+	fl, fs, sp           = sketch.Field, sketch.Fields, sketch.Span
+	sameVersions, copied = sketch.SameVersions, sketch.CopyVersions
+)
 
 // vs makes the writing of a version short that is valid at all times; gone that of one that is gone, with the same fields.
 func vs(stamp int, written string) api.Version {
@@ -45,13 +48,6 @@ func tagged(l []api.Version) []api.Version {
 	}
 	return told
 }
-
-// sameVersion: are both versions the same? A list that is empty and one that is nil are.
-func sameVersion(a, b api.Version) bool {
-	return a.ID == b.ID && a.Stamp == b.Stamp && a.Entity == b.Entity && a.Span == b.Span && a.Gone == b.Gone && slices.Equal(a.Fields, b.Fields)
-}
-
-func sameVersions(a, b []api.Version) bool { return slices.EqualFunc(a, b, sameVersion) }
 
 // slowOrder puts the versions in order by the words of the chapter: each behind all whose stamps are not above its own.
 func slowOrder(l []api.Version) []api.Version {
@@ -159,15 +155,6 @@ func someVersions(r *rand.Rand, many, most int) []api.Version {
 		l = append(l, v)
 	}
 	return l
-}
-
-// copied answers a copy of versions that shares nothing with them.
-func copied(l []api.Version) []api.Version {
-	told := slices.Clone(l)
-	for i := range told {
-		told[i].Fields = slices.Clone(told[i].Fields)
-	}
-	return told
 }
 
 func TestOrder(t *testing.T) {

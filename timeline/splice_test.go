@@ -343,21 +343,6 @@ func TestClipped(t *testing.T) {
 	}
 }
 
-// copiedVersions answers versions that share nothing with what they are of.
-func copiedVersions(l []api.Version) []api.Version {
-	told := slices.Clone(l)
-	for i := range told {
-		told[i].Fields = slices.Clone(told[i].Fields)
-	}
-	return told
-}
-
-func sameVersions(a, b []api.Version) bool {
-	return slices.EqualFunc(a, b, func(v, w api.Version) bool {
-		return v.ID == w.ID && v.Stamp == w.Stamp && v.Entity == w.Entity && v.Span == w.Span && v.Gone == w.Gone && slices.Equal(v.Fields, w.Fields)
-	})
-}
-
 // overwritten writes to all pieces and fields of a list, and puts more behind its fields, in the room that they may have.
 func overwritten(l []api.Piece) {
 	for i := range l {

@@ -18,6 +18,7 @@ var (
 	fl, fs, sp, pc, line, words     = sketch.Field, sketch.Fields, sketch.Span, sketch.Piece, sketch.Line, sketch.Words
 	right, has, slowRight, slowAt   = sketch.Right, sketch.Has, sketch.Timeline, sketch.At
 	same, samePiece, copied, around = sketch.Same, sketch.SamePiece, sketch.Copy, sketch.Around
+	sameVersions, copiedVersions    = sketch.SameVersions, sketch.CopyVersions
 	strange, ends, none             = sketch.Strange(), sketch.Ends(), sketch.NoTimelines()
 	always                          = sp(-1<<40, 1<<40) // the span of all times
 )

@@ -12,6 +12,7 @@ import (
 	"erratum/api"
 	"erratum/field"
 	"erratum/pack"
+	"erratum/sketch"
 	"erratum/version"
 )
 
@@ -24,11 +25,10 @@ func raw(digits string) string {
 	return string(b)
 }
 
-// fl makes a field's writing short, sp that of a span, vs that of a version that stands, gone that of one that is gone, and row that of a row.
-func fl(name string, value int) api.Field { return api.Field{Name: name, Value: value} }
+// Short names of what these tests are written with.
+var fl, sp, same = sketch.Field, sketch.Span, sketch.SameVersion
 
-func sp(from, to int) api.Span { return api.Span{From: from, To: to} }
-
+// vs makes the writing of a version short that stands, gone that of one that is gone, and row that of a row.
 func vs(id, stamp int, entity string, a api.Span, l ...api.Field) api.Version {
 	return api.Version{ID: id, Stamp: stamp, Entity: entity, Span: a, Fields: l}
 }
@@ -52,11 +52,6 @@ var (
 	nine  = []api.Field{fl("a", 1), fl("b", 2), fl("c", 3), fl("d", 4), fl("e", 5), fl("f", 6), fl("g", 7), fl("h", 8), fl("i", 9)}
 	eight = nine[:8]
 )
-
-// same: are both versions the same? A list that is empty and one that is nil are.
-func same(a, b api.Version) bool {
-	return a.ID == b.ID && a.Stamp == b.Stamp && a.Entity == b.Entity && a.Span == b.Span && a.Gone == b.Gone && slices.Equal(a.Fields, b.Fields)
-}
 
 // copied answers a copy of a version that shares nothing with it.
 func copied(v api.Version) api.Version {
