@@ -14,18 +14,10 @@ import (
 )
 
 // Short names of what these tests are written with.
-var fl, sp, same, copied = sketch.Field, sketch.Span, sketch.SameVersion, sketch.CopyVersions
-
-// vs makes the writing of a version short that stands, gone that of one that is gone, and row that of a row.
-func vs(id, stamp int, entity string, a api.Span, l ...api.Field) api.Version {
-	return api.Version{ID: id, Stamp: stamp, Entity: entity, Span: a, Fields: l}
-}
-
-func gone(id, stamp int, entity string) api.Version {
-	return api.Version{ID: id, Stamp: stamp, Entity: entity, Gone: true}
-}
-
-func row(v api.Version, until int) api.Row { return api.Row{Version: v, Until: until} }
+var (
+	fl, sp, same, copied = sketch.Field, sketch.Span, sketch.SameVersion, sketch.CopyVersions
+	vs, gone, row        = sketch.Version, sketch.Gone, sketch.Row
+)
 
 // list makes the writing of a list of versions short, and spans that of a list of spans.
 func list(l ...api.Version) []api.Version { return l }

@@ -1,27 +1,22 @@
 package crc_test
 
 import (
-	"encoding/hex"
 	"hash/crc32"
 	"math"
 	"math/rand"
+	"slices"
 	"strings"
 	"testing"
 
 	"erratum/api"
 	"erratum/crc"
+	"erratum/sketch"
 )
 
 const low = 1<<32 - 1 // the lowest 32 bits
 
-// raw makes the writing of bytes short: two digits each, spaces between them as one likes.
-func raw(digits string) string {
-	b, err := hex.DecodeString(strings.ReplaceAll(digits, " ", ""))
-	if err != nil {
-		panic(err)
-	}
-	return string(b)
-}
+// raw makes the writing of bytes short.
+var raw = sketch.Raw
 
 // bitsOf answers the bits of a text by the words of the chapter: byte by byte, of each the lowest first.
 func bitsOf(s string) []int {
@@ -81,21 +76,7 @@ func someText(r *rand.Rand, n int) string {
 }
 
 // words answers all texts of up to so many bytes of an alphabet.
-func words(alphabet string, most int) []string {
-	all := []string{""}
-	last := all
-	for range most {
-		var longer []string
-		for _, s := range last {
-			for i := range len(alphabet) {
-				longer = append(longer, s+alphabet[i:i+1])
-			}
-		}
-		all = append(all, longer...)
-		last = longer
-	}
-	return all
-}
+func words(alphabet string, most int) []string { return slices.Collect(sketch.Short(alphabet, most)) }
 
 // texts answers texts of many kinds: the empty one, each byte alone and beside others, all short ones of the bytes at the
 // ends and in the middle, and longer ones.

@@ -1,7 +1,6 @@
 package field_test
 
 import (
-	"encoding/hex"
 	"fmt"
 	"maps"
 	"math"
@@ -13,6 +12,7 @@ import (
 	"erratum/api"
 	"erratum/field"
 	"erratum/pack"
+	"erratum/sketch"
 )
 
 // least and most are the ends of values.
@@ -27,14 +27,8 @@ const (
 	others  = letters + "0123456789-"
 )
 
-// raw makes the writing of bytes short: two digits each, spaces between them as one likes.
-func raw(digits string) string {
-	b, err := hex.DecodeString(strings.ReplaceAll(digits, " ", ""))
-	if err != nil {
-		panic(err)
-	}
-	return string(b)
-}
+// raw makes the writing of bytes short.
+var raw = sketch.Raw
 
 // fl makes a field's writing short, and ls that of a list of names whose values are their places, from 1 on.
 func fl(name string, value int) api.Field { return api.Field{Name: name, Value: value} }
@@ -786,18 +780,9 @@ func TestTakeOfCuts(t *testing.T) {
 // TestTakeOfChanged makes each byte of lists' bytes each other one, and leaves bytes out, or puts more in.
 func TestTakeOfChanged(t *testing.T) {
 	for _, s := range someLaid(rand.New(rand.NewSource(76)), 60) {
-		for i := range len(s) {
-			if fault := faultOfBytes(s[:i] + s[i+1:]); fault != nil {
+		for changed := range sketch.Changed(s) {
+			if fault := faultOfBytes(changed); fault != nil {
 				t.Fatal(fault)
-			}
-			for b := range 256 {
-				one := string([]byte{byte(b)})
-				if fault := faultOfBytes(s[:i] + one + s[i+1:]); fault != nil {
-					t.Fatal(fault)
-				}
-				if fault := faultOfBytes(s[:i] + one + s[i:]); fault != nil {
-					t.Fatal(fault)
-				}
 			}
 		}
 	}
@@ -807,22 +792,14 @@ func TestTakeOfChanged(t *testing.T) {
 func TestTakeOfAllShort(t *testing.T) {
 	const alphabet = "\x00\x01\x02\x0dabA"
 	taken := 0
-	var grow func(s string)
-	grow = func(s string) {
+	for s := range sketch.Short(alphabet, 7) {
 		if fault := faultOfBytes(s); fault != nil {
 			t.Fatal(fault)
 		}
 		if _, _, e := field.Take(s); e == api.OK {
 			taken++
 		}
-		if len(s) == 7 {
-			return
-		}
-		for i := range len(alphabet) {
-			grow(s + alphabet[i:i+1])
-		}
 	}
-	grow("")
 	if taken < 1000 {
 		t.Errorf("only %d were taken", taken)
 	}
@@ -833,13 +810,7 @@ func TestTakeOfAny(t *testing.T) {
 	r := rand.New(rand.NewSource(77))
 	const often = "\x00\x01\x01\x01\x02\x02\x03\x08\x09\x0c\x0dabcz-09\x80\xff"
 	for range 100_000 {
-		b := make([]byte, r.Intn(20))
-		for i := range b {
-			if b[i] = byte(r.Intn(256)); r.Intn(5) > 0 {
-				b[i] = often[r.Intn(len(often))]
-			}
-		}
-		if fault := faultOfBytes(string(b)); fault != nil {
+		if fault := faultOfBytes(sketch.Garbled(r.Intn, often, 20)); fault != nil {
 			t.Fatal(fault)
 		}
 	}

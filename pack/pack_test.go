@@ -1,7 +1,6 @@
 package pack_test
 
 import (
-	"encoding/hex"
 	"fmt"
 	"math"
 	"math/big"
@@ -12,6 +11,7 @@ import (
 
 	"erratum/api"
 	"erratum/pack"
+	"erratum/sketch"
 )
 
 // greatest is the greatest number that may be; least and most are those of numbers with a sign.
@@ -21,14 +21,8 @@ const (
 	most     = 1<<61 - 1
 )
 
-// raw makes the writing of bytes short: two digits each, spaces between them as one likes.
-func raw(digits string) string {
-	b, err := hex.DecodeString(strings.ReplaceAll(digits, " ", ""))
-	if err != nil {
-		panic(err)
-	}
-	return string(b)
-}
+// raw makes the writing of bytes short.
+var raw = sketch.Raw
 
 // slow lays a number by the words of the chapter, bit by bit; k is how many bytes are behind the first one.
 func slow(k int, n *big.Int) string {

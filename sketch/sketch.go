@@ -1,14 +1,83 @@
-// Package sketch is for tests alone: it makes the writing of spans, fields and timelines short, holds them and versions against each other,
-// and tells what they are slowly, by the plain words of chapters 1 and 11, so that what is quicker can be held against it.
+// Package sketch is for tests alone: it makes the writing of bytes, spans, fields, timelines, versions and commands short, and holds them against each other;
+// it goes over texts that bytes are read of; and it tells what spans and timelines are slowly, by the plain words of chapters 1 and 11, so that what is quicker can be held against it.
 package sketch
 
 import (
+	"iter"
 	"slices"
 	"strconv"
 	"strings"
 
 	"erratum/api"
 )
+
+// Raw reads bytes: two digits to the base 16 each, spaces between them as one likes.
+func Raw(digits string) string {
+	digits = strings.ReplaceAll(digits, " ", "")
+	// Bytes that no test can mean, so that a slip of the pen does not go unseen.
+	wrong := "no bytes: " + digits
+	if len(digits)%2 == 1 {
+		return wrong
+	}
+	var raw []byte
+	for i := 0; i < len(digits); i += 2 {
+		b, err := strconv.ParseUint(digits[i:i+2], 16, 8)
+		if err != nil {
+			return wrong
+		}
+		raw = append(raw, byte(b))
+	}
+	return string(raw)
+}
+
+// Short goes over all texts of at most so many of the letters, over each ahead of those that begin with it.
+func Short(letters string, most int) iter.Seq[string] {
+	return func(yield func(s string) bool) { longer("", letters, most, yield) }
+}
+
+// longer goes over a text, and over all that begin with it; false: nobody asks for more.
+func longer(s, letters string, most int, yield func(s string) bool) bool {
+	if !yield(s) {
+		return false
+	}
+	if len(s) == most {
+		return true
+	}
+	for i := range len(letters) {
+		if !longer(s+letters[i:i+1], letters, most, yield) {
+			return false
+		}
+	}
+	return true
+}
+
+// Changed goes over the texts that one becomes, when one of its bytes is left out, or is made each one, or each one is laid ahead of it.
+func Changed(s string) iter.Seq[string] {
+	return func(yield func(s string) bool) {
+		for i := range len(s) {
+			if !yield(s[:i] + s[i+1:]) {
+				return
+			}
+			for b := range 256 {
+				one := string([]byte{byte(b)})
+				if !yield(s[:i]+one+s[i+1:]) || !yield(s[:i]+one+s[i:]) {
+					return
+				}
+			}
+		}
+	}
+}
+
+// Garbled answers a text of fewer than so many bytes, of which most are some that come often; intn tells numbers below a number by chance.
+func Garbled(intn func(n int) int, often string, most int) string {
+	b := make([]byte, intn(most))
+	for i := range b {
+		if b[i] = byte(intn(256)); intn(5) > 0 {
+			b[i] = often[intn(len(often))]
+		}
+	}
+	return string(b)
+}
 
 // Span answers the span of both ends, right or not.
 func Span(from, to int) api.Span { return api.Span{From: from, To: to} }
@@ -129,6 +198,19 @@ func Copy(l []api.Piece) []api.Piece {
 	return copied
 }
 
+// Version answers the version that stands, right or not, of an ID and a Stamp.
+func Version(id, stamp int, entity string, a api.Span, l ...api.Field) api.Version {
+	return api.Version{ID: id, Stamp: stamp, Entity: entity, Span: a, Fields: l}
+}
+
+// Gone answers the version, right or not, of an event that is gone.
+func Gone(id, stamp int, entity string) api.Version {
+	return api.Version{ID: id, Stamp: stamp, Entity: entity, Gone: true}
+}
+
+// Row answers the row of a version and of where it ends, right or not.
+func Row(v api.Version, until int) api.Row { return api.Row{Version: v, Until: until} }
+
 // SameVersion: are both versions the same? A list that is empty and one that is nil are.
 func SameVersion(a, b api.Version) bool {
 	return a.ID == b.ID && a.Stamp == b.Stamp && a.Entity == b.Entity && a.Span == b.Span && a.Gone == b.Gone && slices.Equal(a.Fields, b.Fields)
@@ -139,6 +221,36 @@ func SameVersions(a, b []api.Version) bool { return slices.EqualFunc(a, b, SameV
 
 // CopyVersions answers the same versions, which share nothing with the list.
 func CopyVersions(l []api.Version) []api.Version {
+	copied := slices.Clone(l)
+	for i := range copied {
+		copied[i].Fields = slices.Clone(copied[i].Fields)
+	}
+	return copied
+}
+
+// Append answers the command that appends an event, right or not.
+func Append(entity string, a api.Span, l ...api.Field) api.Command {
+	return api.Command{Kind: api.Append, Entity: entity, Span: a, Fields: l}
+}
+
+// Correct answers the command that corrects an event, right or not.
+func Correct(target int, a api.Span, l ...api.Field) api.Command {
+	return api.Command{Kind: api.Correct, Target: target, Span: a, Fields: l}
+}
+
+// Annul answers the command that annuls an event, right or not.
+func Annul(target int) api.Command { return api.Command{Kind: api.Annul, Target: target} }
+
+// SameCommand: are both commands the same? A list that is empty and one that is nil are.
+func SameCommand(a, b api.Command) bool {
+	return a.Kind == b.Kind && a.Entity == b.Entity && a.Target == b.Target && a.Span == b.Span && slices.Equal(a.Fields, b.Fields)
+}
+
+// SameCommands: are both lists the same, command by command?
+func SameCommands(a, b []api.Command) bool { return slices.EqualFunc(a, b, SameCommand) }
+
+// CopyCommands answers the same commands, which share nothing with the list.
+func CopyCommands(l []api.Command) []api.Command {
 	copied := slices.Clone(l)
 	for i := range copied {
 		copied[i].Fields = slices.Clone(copied[i].Fields)

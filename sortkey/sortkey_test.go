@@ -2,7 +2,6 @@ package sortkey_test
 
 import (
 	"cmp"
-	"encoding/hex"
 	"math"
 	"math/big"
 	"math/rand"
@@ -11,17 +10,12 @@ import (
 	"testing"
 
 	"erratum/api"
+	"erratum/sketch"
 	"erratum/sortkey"
 )
 
-// raw makes the writing of bytes short: two digits each, spaces between them as one likes.
-func raw(digits string) string {
-	b, err := hex.DecodeString(strings.ReplaceAll(digits, " ", ""))
-	if err != nil {
-		panic(err)
-	}
-	return string(b)
-}
+// raw makes the writing of bytes short.
+var raw = sketch.Raw
 
 // num and txt make the writing of parts short.
 func num(n int) sortkey.Part    { return sortkey.Part{Int: true, N: n} }

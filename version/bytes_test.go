@@ -10,6 +10,7 @@ import (
 	"erratum/api"
 	"erratum/field"
 	"erratum/pack"
+	"erratum/sketch"
 	"erratum/version"
 )
 
@@ -389,17 +390,9 @@ func TestTakeOfCuts(t *testing.T) {
 func TestTakeOfChanged(t *testing.T) {
 	versions, rows := someLaid(rand.New(rand.NewSource(96)), 12)
 	for _, s := range slices.Concat(versions, rows) {
-		for i := range len(s) {
-			if fault := faultOfBytes(s[:i] + s[i+1:]); fault != nil {
+		for changed := range sketch.Changed(s) {
+			if fault := faultOfBytes(changed); fault != nil {
 				t.Fatal(fault)
-			}
-			for b := range 256 {
-				one := string([]byte{byte(b)})
-				for _, changed := range []string{s[:i] + one + s[i+1:], s[:i] + one + s[i:]} {
-					if fault := faultOfBytes(changed); fault != nil {
-						t.Fatal(fault)
-					}
-				}
 			}
 		}
 	}
@@ -409,22 +402,14 @@ func TestTakeOfChanged(t *testing.T) {
 func TestTakeOfAllShort(t *testing.T) {
 	const alphabet = "\x00\x01\x02\x03a\x80"
 	taken := 0
-	var grow func(s string)
-	grow = func(s string) {
+	for s := range sketch.Short(alphabet, 8) {
 		if fault := faultOfBytes(s); fault != nil {
 			t.Fatal(fault)
 		}
 		if _, _, e := version.TakeRow(s); e == api.OK {
 			taken++
 		}
-		if len(s) == 8 {
-			return
-		}
-		for i := range len(alphabet) {
-			grow(s + alphabet[i:i+1])
-		}
 	}
-	grow("")
 	if taken < 1000 {
 		t.Errorf("only %d were taken", taken)
 	}
@@ -435,13 +420,7 @@ func TestTakeOfAny(t *testing.T) {
 	r := rand.New(rand.NewSource(97))
 	const often = "\x00\x00\x01\x01\x01\x02\x02\x03\x08\x09\x18\x19ae\x80\xf8\xff"
 	for range 100_000 {
-		b := make([]byte, r.Intn(24))
-		for i := range b {
-			if b[i] = byte(r.Intn(256)); r.Intn(5) > 0 {
-				b[i] = often[r.Intn(len(often))]
-			}
-		}
-		if fault := faultOfBytes(string(b)); fault != nil {
+		if fault := faultOfBytes(sketch.Garbled(r.Intn, often, 24)); fault != nil {
 			t.Fatal(fault)
 		}
 	}

@@ -2,7 +2,6 @@ package version_test
 
 import (
 	"cmp"
-	"encoding/hex"
 	"math"
 	"math/rand"
 	"slices"
@@ -16,28 +15,11 @@ import (
 	"erratum/version"
 )
 
-// raw makes the writing of bytes short: two digits each, spaces between them as one likes.
-func raw(digits string) string {
-	b, err := hex.DecodeString(strings.ReplaceAll(digits, " ", ""))
-	if err != nil {
-		panic(err)
-	}
-	return string(b)
-}
-
 // Short names of what these tests are written with.
-var fl, sp, same = sketch.Field, sketch.Span, sketch.SameVersion
-
-// vs makes the writing of a version short that stands, gone that of one that is gone, and row that of a row.
-func vs(id, stamp int, entity string, a api.Span, l ...api.Field) api.Version {
-	return api.Version{ID: id, Stamp: stamp, Entity: entity, Span: a, Fields: l}
-}
-
-func gone(id, stamp int, entity string) api.Version {
-	return api.Version{ID: id, Stamp: stamp, Entity: entity, Gone: true}
-}
-
-func row(v api.Version, until int) api.Row { return api.Row{Version: v, Until: until} }
+var (
+	fl, sp, same, raw = sketch.Field, sketch.Span, sketch.SameVersion, sketch.Raw
+	vs, gone, row     = sketch.Version, sketch.Gone, sketch.Row
+)
 
 // Entities of as many bytes as one may have, and of one more; and spans that are right.
 var (
