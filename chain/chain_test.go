@@ -4,7 +4,6 @@ import (
 	"math"
 	"math/rand"
 	"slices"
-	"strings"
 	"testing"
 
 	"erratum/api"
@@ -17,6 +16,7 @@ import (
 var (
 	fl, sp, same, copied = sketch.Field, sketch.Span, sketch.SameVersion, sketch.CopyVersions
 	vs, gone, row        = sketch.Version, sketch.Gone, sketch.Row
+	sameRows             = sketch.SameRows
 )
 
 // list makes the writing of a list of versions short, and spans that of a list of spans.
@@ -25,13 +25,7 @@ func list(l ...api.Version) []api.Version { return l }
 func spans(l ...api.Span) []api.Span { return l }
 
 // day is a right span, and ever the longest one; nine are more fields than a version may have.
-var (
-	day  = sp(0, 9)
-	ever = sp(-1<<40, 1<<40)
-	nine = []api.Field{fl("a", 1), fl("b", 2), fl("c", 3), fl("d", 4), fl("e", 5), fl("f", 6), fl("g", 7), fl("h", 8), fl("i", 9)}
-)
-
-func sameRow(a, b api.Row) bool { return same(a.Version, b.Version) && a.Until == b.Until }
+var day, ever, nine = sketch.Day(), sketch.Ever(), sketch.Nine()
 
 // slowCheck tells by the words of the chapter what is wrong first with versions.
 func slowCheck(l []api.Version) api.Errno {
@@ -144,7 +138,7 @@ func pick[T any](r *rand.Rand, l []T) T { return l[r.Intn(len(l))] }
 // Numbers, entities, spans and fields of which any versions are made, right and wrong.
 var (
 	someInts     = []int{math.MinInt, -1 << 62, -1, 0, 1, 2, 3, 4, 1<<40 - 2, 1<<40 - 1, 1 << 40, 1<<62 - 1, 1 << 62, math.MaxInt}
-	someEntities = []string{"", "e", "f", "\x00", strings.Repeat("k", 24), strings.Repeat("k", 25)}
+	someEntities = []string{"", "e", "f", "\x00", sketch.MostBytes, sketch.TooLong}
 	someSpans    = []api.Span{{}, day, sp(-5, -2), sp(-2, 4), sp(9, 12), sp(11, 14), ever, sp(3, 3), sp(9, 0), sp(-1<<40-1, 0), sp(0, 1<<40+1), sp(math.MinInt, math.MaxInt), sp(math.MaxInt, math.MinInt)}
 	someFields   = [][]api.Field{nil, {}, {fl("a", 1)}, {fl("a", 0), fl("b", -7)}, nine, {fl("A", 1)}, {fl("b", 1), fl("a", 1)}}
 )
@@ -169,7 +163,7 @@ func someVersions(r *rand.Rand) []api.Version {
 // someChain answers a chain of one version or several, as many as six, of which the last one may be gone.
 func someChain(r *rand.Rand) []api.Version {
 	id := 1 + r.Intn(1<<39)>>r.Intn(40)
-	entity := pick(r, []string{"e", "f", "\x00", strings.Repeat("k", 24)})
+	entity := pick(r, []string{"e", "f", "\x00", sketch.MostBytes})
 	var l []api.Version
 	stamp := id
 	for range 1 + r.Intn(6) {
@@ -227,7 +221,7 @@ func TestCheckOfChains(t *testing.T) {
 	most := 1<<40 - 1
 	for _, l := range [][]api.Version{
 		list(vs(1, 1, "e", day)),
-		list(vs(most, most, strings.Repeat("k", 24), ever, nine[:8]...)),
+		list(vs(most, most, sketch.MostBytes, ever, nine[:8]...)),
 		list(vs(1, 1, "e", day), vs(1, 2, "e", day)),
 		list(vs(1, 1, "\x00", day), vs(1, most, "\x00", sp(-9, -8), fl("b", 1))),
 		list(vs(1, 1, "e", day), gone(1, 2, "e")),
@@ -259,7 +253,7 @@ func TestCheckOfWrongOnes(t *testing.T) {
 		{changed(2, func(v *api.Version) { v.Fields = nine }), api.ErrBig},
 		{changed(0, func(v *api.Version) { v.Entity = "" }), api.ErrArg},
 		{changed(1, func(v *api.Version) { v.Entity = "" }), api.ErrArg},
-		{changed(2, func(v *api.Version) { v.Entity = strings.Repeat("k", 25) }), api.ErrBig},
+		{changed(2, func(v *api.Version) { v.Entity = sketch.TooLong }), api.ErrBig},
 		{changed(0, func(v *api.Version) { v.Stamp = 0 }), api.ErrArg},
 		{changed(1, func(v *api.Version) { v.Stamp = 1 << 40 }), api.ErrArg},
 		{changed(2, func(v *api.Version) { v.Gone = true }), api.ErrForm},
@@ -399,7 +393,7 @@ func TestCheckAndRowsOfMany(t *testing.T) {
 			t.Fatalf("Check(%#v) = %d, not %d", l, e, wantErr)
 		}
 		rows, e := chain.Rows(l...)
-		if e != wantErr || !slices.EqualFunc(rows, want, sameRow) {
+		if e != wantErr || !sameRows(rows, want) {
 			t.Fatalf("Rows(%#v) = %#v, %d, not %#v, %d", l, rows, e, want, wantErr)
 		}
 		if e == api.OK {
@@ -431,7 +425,7 @@ func TestRows(t *testing.T) {
 		{changed(2, func(v *api.Version) { v.Fields = nine }), nil, api.ErrBig},
 	} {
 		rows, e := chain.Rows(c.l...)
-		if e != c.e || !slices.EqualFunc(rows, c.want, sameRow) {
+		if e != c.e || !sameRows(rows, c.want) {
 			t.Errorf("Rows(%#v) = %#v, %d, not %#v, %d", c.l, rows, e, c.want, c.e)
 		}
 		if e != api.OK && rows != nil {

@@ -22,18 +22,12 @@ var (
 	same, sameVersion       = sketch.SameCommand, sketch.SameVersion
 )
 
-// Entities of as many bytes as one may have, and of one more; and spans that are right.
-var (
-	mostBytes = strings.Repeat("k", 24)
-	tooLong   = strings.Repeat("k", 25)
-	ever      = sp(-1<<40, 1<<40)
-	day       = sp(0, 9)
-)
+// Entities of as many bytes as one may have, and of one more; spans that are right; and more fields than a command may have, and as many.
+const mostBytes, tooLong = sketch.MostBytes, sketch.TooLong
 
-// nine are more fields than a command may have, and eight are as many.
 var (
-	nine  = fs("a1 b2 c3 d4 e5 f6 g7 h8 i9")
-	eight = nine[:8]
+	day, ever   = sketch.Day(), sketch.Ever()
+	nine, eight = sketch.Nine(), sketch.Nine()[:8]
 )
 
 // Targets that are some, and that are none.

@@ -1,5 +1,6 @@
 // Package sketch is for tests alone: it makes the writing of bytes, spans, fields, timelines, versions and commands short, and holds them against each other;
-// it goes over texts that bytes are read of; and it tells what spans and timelines are slowly, by the plain words of chapters 1 and 11, so that what is quicker can be held against it.
+// it goes over texts that bytes are read of; and it tells what spans, timelines and the fields of a time are slowly, by the plain words of chapters 1, 8 and 11,
+// so that what is quicker can be held against it.
 package sketch
 
 import (
@@ -9,6 +10,12 @@ import (
 	"strings"
 
 	"erratum/api"
+)
+
+// Entities of as many bytes as one may have, and of one more.
+const (
+	MostBytes = "kkkkkkkkkkkkkkkkkkkkkkkk"
+	TooLong   = MostBytes + "k"
 )
 
 // Raw reads bytes: two digits to the base 16 each, spaces between them as one likes.
@@ -82,6 +89,11 @@ func Garbled(intn func(n int) int, often string, most int) string {
 // Span answers the span of both ends, right or not.
 func Span(from, to int) api.Span { return api.Span{From: from, To: to} }
 
+// Day answers a right span, and Ever the longest one.
+func Day() api.Span { return Span(0, 9) }
+
+func Ever() api.Span { return Span(-1<<40, 1<<40) }
+
 // Field answers the field of a name and a value, right or not.
 func Field(name string, value int) api.Field { return api.Field{Name: name, Value: value} }
 
@@ -99,6 +111,9 @@ func Fields(written string) []api.Field {
 	}
 	return l
 }
+
+// Nine answers more fields than there may be; the first eight of them are as many.
+func Nine() []api.Field { return Fields("a1 b2 c3 d4 e5 f6 g7 h8 i9") }
 
 // Piece answers the piece over a span of the fields that are written.
 func Piece(from, to int, written string) api.Piece {
@@ -183,6 +198,48 @@ func At(l []api.Piece, t int) ([]api.Field, bool) {
 	return nil, false
 }
 
+// Unlike answers a time at which the pieces have something else than they should, if there is one; what they should have changes at none but the times.
+func Unlike(l []api.Piece, times []int, want func(t int) ([]api.Field, bool)) (int, bool) {
+	// Between two of all these times both stay the same.
+	asked := slices.Clone(times)
+	for _, p := range l {
+		asked = append(asked, p.Span.From, p.Span.To)
+	}
+	for _, border := range asked {
+		for _, t := range []int{border - 1, border} {
+			wanted, there := want(t)
+			if fields, ok := At(l, t); ok != there || !slices.Equal(fields, wanted) {
+				return t, true
+			}
+		}
+	}
+	return 0, false
+}
+
+// Made answers what versions make of a time: of each name what the one says last whose Stamp is the greatest of those that count; and whether one of them does.
+func Made(l []api.Version, t int) ([]api.Field, bool) {
+	type set struct{ stamp, value int }
+	sets := map[string]set{}
+	counts := false
+	for _, v := range l {
+		if v.Gone || !Has(v.Span, t) {
+			continue
+		}
+		counts = true
+		for _, f := range v.Fields {
+			if before, there := sets[f.Name]; !there || before.stamp <= v.Stamp {
+				sets[f.Name] = set{v.Stamp, f.Value}
+			}
+		}
+	}
+	var made []api.Field
+	for name, last := range sets {
+		made = append(made, Field(name, last.value))
+	}
+	slices.SortFunc(made, func(f, g api.Field) int { return strings.Compare(f.Name, g.Name) })
+	return made, counts
+}
+
 // SamePiece: are both pieces the same?
 func SamePiece(p, q api.Piece) bool { return p.Span == q.Span && slices.Equal(p.Fields, q.Fields) }
 
@@ -218,6 +275,12 @@ func SameVersion(a, b api.Version) bool {
 
 // SameVersions: are both lists the same, version by version?
 func SameVersions(a, b []api.Version) bool { return slices.EqualFunc(a, b, SameVersion) }
+
+// SameRow: are both rows the same?
+func SameRow(a, b api.Row) bool { return SameVersion(a.Version, b.Version) && a.Until == b.Until }
+
+// SameRows: are both lists the same, row by row?
+func SameRows(a, b []api.Row) bool { return slices.EqualFunc(a, b, SameRow) }
 
 // CopyVersions answers the same versions, which share nothing with the list.
 func CopyVersions(l []api.Version) []api.Version {

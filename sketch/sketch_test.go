@@ -24,6 +24,16 @@ func TestFields(t *testing.T) {
 	}
 }
 
+// TestMost: what is told to be as much as there may be, and one more, is that.
+func TestMost(t *testing.T) {
+	if len(sketch.MostBytes) != 24 || len(sketch.TooLong) != 25 || len(sketch.Nine()) != 9 {
+		t.Error(len(sketch.MostBytes), len(sketch.TooLong), len(sketch.Nine()))
+	}
+	if !sketch.Right(sketch.Day()) || sketch.Ever().To-sketch.Ever().From != 1<<41 || !sketch.Right(sketch.Ever()) {
+		t.Error(sketch.Day(), sketch.Ever())
+	}
+}
+
 func TestRaw(t *testing.T) {
 	for digits, want := range map[string]string{
 		"":             "",
@@ -127,6 +137,45 @@ func TestTimeline(t *testing.T) {
 	}
 }
 
+func TestUnlike(t *testing.T) {
+	l := sketch.Line(5, ".11--2.")
+	want := func(at int) ([]api.Field, bool) { return sketch.At(l, at) }
+	times := []int{6, 8, 10, 11}
+	if at, unlike := sketch.Unlike(l, times, want); unlike {
+		t.Errorf("%v is told to be unlike itself at %d", l, at)
+	}
+	for _, word := range []string{".......", "1......", ".11--2-", ".11--3.", ".11-12.", ".111-2.", ".1.--2.", "..1--2.", ".11..2."} {
+		// Whichever of the times is told, it is one at which both have something else.
+		at, unlike := sketch.Unlike(sketch.Line(5, word), times, want)
+		if !unlike || at < 5 || at > 11 || word[at-5] == ".11--2."[at-5] {
+			t.Errorf("%s is told to be unlike at %d, %t", word, at, unlike)
+		}
+	}
+}
+
+func TestMade(t *testing.T) {
+	v := func(stamp, from, to int, written string) api.Version {
+		return sketch.Version(1, stamp, "e", sketch.Span(from, to), sketch.Fields(written)...)
+	}
+	l := []api.Version{v(2, 0, 6, "a2 b2"), v(1, 4, 8, "a1 c1"), sketch.Gone(1, 3, "e"), v(4, 3, 3, "a4"), v(2, 5, 6, "b5 b6"), v(5, 7, 8, "")}
+	for at, want := range []struct {
+		made   string
+		counts bool
+	}{
+		{"a2 b2", true}, {"a2 b2", true}, {"a2 b2", true}, {"a2 b2", true}, {"a2 b2 c1", true}, {"a2 b6 c1", true}, {"a1 c1", true}, {"a1 c1", true}, {"", false},
+	} {
+		if made, counts := sketch.Made(l, at); counts != want.counts || !slices.Equal(made, sketch.Fields(want.made)) {
+			t.Errorf("Made at %d: %v, %t, not %s, %t", at, made, counts, want.made, want.counts)
+		}
+	}
+	if made, counts := sketch.Made([]api.Version{v(1, 0, 1, "")}, 0); len(made) != 0 || !counts {
+		t.Errorf("Made of no fields: %v, %t", made, counts)
+	}
+	if made, counts := sketch.Made([]api.Version{{Gone: true, Span: sketch.Span(0, 9), Fields: sketch.Fields("a1")}}, 0); len(made) != 0 || counts {
+		t.Errorf("Made of one that is gone: %v, %t", made, counts)
+	}
+}
+
 func TestSameVersion(t *testing.T) {
 	v := sketch.Version(1, 2, "e", sketch.Span(0, 9), sketch.Fields("a1")...)
 	v.Gone = true
@@ -145,6 +194,18 @@ func TestSameVersion(t *testing.T) {
 	}
 	if !sketch.SameVersions([]api.Version{v}, []api.Version{v}) || sketch.SameVersions(nil, []api.Version{v}) {
 		t.Error("lists of the same version")
+	}
+}
+
+func TestSameRow(t *testing.T) {
+	a := sketch.Row(sketch.Gone(1, 2, "e"), 5)
+	for i, b := range []api.Row{sketch.Row(sketch.Gone(1, 3, "e"), 5), sketch.Row(sketch.Gone(1, 2, "e"), 6)} {
+		if sketch.SameRow(a, b) || sketch.SameRows([]api.Row{a, a}, []api.Row{a, b}) {
+			t.Errorf("the %d-th other row is told to be the same", i)
+		}
+	}
+	if !sketch.SameRows([]api.Row{a}, []api.Row{a}) || sketch.SameRows(nil, []api.Row{a}) {
+		t.Error("lists of the same row")
 	}
 }
 

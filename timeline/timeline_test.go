@@ -5,7 +5,6 @@ import (
 	"math"
 	"math/rand"
 	"slices"
-	"strings"
 	"testing"
 
 	"erratum/api"
@@ -19,6 +18,7 @@ var (
 	right, has, slowRight, slowAt   = sketch.Right, sketch.Has, sketch.Timeline, sketch.At
 	same, samePiece, copied, around = sketch.Same, sketch.SamePiece, sketch.Copy, sketch.Around
 	sameVersions, copiedVersions    = sketch.SameVersions, sketch.CopyVersions
+	slowMade                        = sketch.Made
 	strange, ends, none             = sketch.Strange(), sketch.Ends(), sketch.NoTimelines()
 	always                          = sp(-1<<40, 1<<40) // the span of all times
 )
@@ -49,47 +49,15 @@ func spansIn(least, most int) []api.Span {
 	return l
 }
 
-// slowMade answers what versions make of a time, by the words of chapters 8 and 11: of each name what the one that counts says last whose stamp is the greatest.
-func slowMade(l []api.Version, t int) ([]api.Field, bool) {
-	stamps := map[string]int{}
-	values := map[string]int{}
-	counts := false
-	for _, v := range l {
-		if v.Gone || !has(v.Span, t) {
-			continue
-		}
-		counts = true
-		for _, f := range v.Fields {
-			if stamp, set := stamps[f.Name]; !set || stamp <= v.Stamp {
-				stamps[f.Name], values[f.Name] = v.Stamp, f.Value
-			}
-		}
-	}
-	var made []api.Field
-	for name, value := range values {
-		made = append(made, fl(name, value))
-	}
-	slices.SortFunc(made, func(f, g api.Field) int { return strings.Compare(f.Name, g.Name) })
-	return made, counts
-}
-
-// faultOf tells what is wrong with a timeline that should have something at each time; what it should have changes at no others than the times.
+// faultOf tells what is wrong with a timeline that should have something at each time; what it should have changes at none but the times.
 func faultOf(got []api.Piece, times []int, want func(t int) ([]api.Field, bool)) string {
 	if !slowRight(got) {
 		return fmt.Sprintf("%v is no timeline", got)
 	}
-	// Between two of all these times both stay the same.
-	asked := slices.Clone(times)
-	for _, p := range got {
-		asked = append(asked, p.Span.From, p.Span.To)
-	}
-	for _, t := range asked {
-		for _, at := range []int{t - 1, t} {
-			wanted, there := want(at)
-			if fields, ok := slowAt(got, at); ok != there || !slices.Equal(fields, wanted) {
-				return fmt.Sprintf("%v has at %d %v, %t, not %v, %t", got, at, fields, ok, wanted, there)
-			}
-		}
+	if at, unlike := sketch.Unlike(got, times, want); unlike {
+		wanted, there := want(at)
+		fields, ok := slowAt(got, at)
+		return fmt.Sprintf("%v has at %d %v, %t, not %v, %t", got, at, fields, ok, wanted, there)
 	}
 	return ""
 }

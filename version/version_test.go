@@ -21,18 +21,12 @@ var (
 	vs, gone, row     = sketch.Version, sketch.Gone, sketch.Row
 )
 
-// Entities of as many bytes as one may have, and of one more; and spans that are right.
-var (
-	mostBytes = strings.Repeat("k", 24)
-	tooLong   = strings.Repeat("k", 25)
-	ever      = sp(-1<<40, 1<<40)
-	day       = sp(0, 9)
-)
+// Entities of as many bytes as one may have, and of one more; spans that are right; and more fields than a version may have, and as many.
+const mostBytes, tooLong = sketch.MostBytes, sketch.TooLong
 
-// nine are more fields than a version may have, and eight are as many.
 var (
-	nine  = []api.Field{fl("a", 1), fl("b", 2), fl("c", 3), fl("d", 4), fl("e", 5), fl("f", 6), fl("g", 7), fl("h", 8), fl("i", 9)}
-	eight = nine[:8]
+	day, ever   = sketch.Day(), sketch.Ever()
+	nine, eight = sketch.Nine(), sketch.Nine()[:8]
 )
 
 // copied answers a copy of a version that shares nothing with it.
